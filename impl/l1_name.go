@@ -37,45 +37,54 @@ func Clean(name string) Named {
 
 // Within is the name in its one form, walked from where module from stands.
 func Within(from, name string) Named {
+	return named(within(from, name))
+}
+
+func within(from, name string) (oneForm, int) {
 	home, code := walk(nil, from)
 	if code != 0 {
-		return Named{Code: codeFrom}
+		return oneForm{}, codeFrom
 	}
-	return named(walk(home.folder(), name))
+	return walk(home.folder(), name)
 }
 
 // Tries are the names under which a name in module from is looked for, in order.
 func Tries(roots []string, from, name string) []string {
+	var tries []string
+	for _, form := range formsToTry(roots, from, name) {
+		tries = append(tries, form.text)
+	}
+	return tries
+}
+
+func formsToTry(roots []string, from, name string) []oneForm {
 	if len(roots) > MaxRoots {
 		return nil
 	}
 	if isRelative(name) {
-		alone := Within(from, name)
-		if alone.Code != 0 {
+		alone, code := within(from, name)
+		if code != 0 {
 			return nil
 		}
-		return []string{alone.Name}
+		return []oneForm{alone}
 	}
-	alone := Clean(name)
-	if alone.Code != 0 {
+	alone, code := walk(nil, name)
+	if code != 0 {
 		return nil
 	}
-	return underRoots(roots, alone.Name)
+	return underRoots(roots, alone.text)
 }
 
 // underRoots leaves out the roots that lead to no name, or to one that an earlier root led to.
-func underRoots(roots []string, name string) []string {
-	var met []oneForm
-	var tries []string
+func underRoots(roots []string, name string) []oneForm {
+	var forms []oneForm
 	for _, root := range roots {
 		form, code := walk(nil, rooted(root, name))
-		if code != 0 || slices.Contains(met, form) {
-			continue
+		if code == 0 && !slices.Contains(forms, form) {
+			forms = append(forms, form)
 		}
-		met = append(met, form)
-		tries = append(tries, form.text)
 	}
-	return tries
+	return forms
 }
 
 func rooted(root, name string) string {
